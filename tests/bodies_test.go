@@ -24,6 +24,12 @@ func wantStepDouble(m impl.Mode, state complex128, x float32) complex128 {
 }
 
 func wantRing(b impl.Body, input []float32, n int) []float32 {
+	return wantTouch(b, input, b, n, n)
+}
+
+// wantTouch rings b, and from the step from on the modes of touched, with the
+// states that b had.
+func wantTouch(b impl.Body, input []float32, touched impl.Body, from, n int) []float32 {
 	states := make([]complex64, len(b.Modes))
 	outputs := make([]float32, n)
 	for i := range outputs {
@@ -31,12 +37,25 @@ func wantRing(b impl.Body, input []float32, n int) []float32 {
 		if i < len(input) {
 			x = input[i]
 		}
-		for k, m := range b.Modes {
+		modes := b.Modes
+		if i >= from {
+			modes = touched.Modes
+		}
+		for k, m := range modes {
 			states[k] = wantStep(m, states[k], x)
 			outputs[i] = sumSingle(outputs[i], real(states[k]))
 		}
 	}
 	return outputs
+}
+
+func wantDamped(b impl.Body, factor float32) impl.Body {
+	damped := impl.Body{}
+	for _, m := range b.Modes {
+		pole := complex(productSingle(real(m.Pole), factor), productSingle(imag(m.Pole), factor))
+		damped.Modes = append(damped.Modes, impl.Mode{Pole: pole, Gain: m.Gain})
+	}
+	return damped
 }
 
 func wantRingDouble(b impl.Body, input []float32, n int) []float64 {
@@ -197,4 +216,18 @@ func wrongBodies() []impl.Body {
 		list = append(list, bodyOf(bad), bodyOf(bad, good), bodyOf(good, bad, good), bodyOf(good, good, bad))
 	}
 	return list
+}
+
+func factors() []float32 {
+	return []float32{0, narrow(negativeZero), leastSingle, 0.1, 0.5, math.Nextafter32(1, 0), 1}
+}
+
+// wrongFactors are not from 0 to 1.
+func wrongFactors() []float32 {
+	return []float32{-leastSingle, oneOver(1), -1, 2, float32(inf), float32(-inf), float32(nan)}
+}
+
+// wrongSteps are numbers of steps that are out of range.
+func wrongSteps() []int {
+	return []int{-1, math.MinInt, impl.MaxSamples + 1, 1 << 32, math.MaxInt}
 }

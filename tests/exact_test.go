@@ -83,6 +83,16 @@ func sumSingle(x, y float32) float32 {
 	return roundSingle(blank().Add(exact(float64(x)), exact(float64(y))))
 }
 
+func differenceSingle(x, y float32) float32 { return sumSingle(x, -y) }
+
+func ratioSingle(x, y float32) float32 {
+	wide := float64(x) / float64(y)
+	if !finitePart(wide) || math.IsInf(float64(y), 0) {
+		return float32(wide)
+	}
+	return roundSingle(blank().Quo(exact(float64(x)), exact(float64(y))))
+}
+
 func wantProduct(a, b complex128) complex128 {
 	return complex(
 		difference(product(real(a), real(b)), product(imag(a), imag(b))),

@@ -91,16 +91,12 @@ func TestP10ValidBodies(t *testing.T) {
 func TestP10DampedBodies(t *testing.T) {
 	r := newRandom()
 	check := func(b impl.Body, factor float32) {
-		want := impl.Body{}
-		for _, m := range b.Modes {
-			pole := complex(productSingle(real(m.Pole), factor), productSingle(imag(m.Pole), factor))
-			want.Modes = append(want.Modes, impl.Mode{Pole: pole, Gain: m.Gain})
-		}
+		want := wantDamped(b, factor)
 		if damped, ok := impl.DampBody(b, factor); !ok || !sameBody(damped, want) || !impl.IsBody(damped) {
 			t.Fatalf("DampBody of %v by %v: %v %v, want %v", b, factor, damped, ok, want)
 		}
 	}
-	for _, factor := range []float32{0, narrow(negativeZero), leastSingle, 0.1, 0.5, math.Nextafter32(1, 0), 1} {
+	for _, factor := range factors() {
 		check(impl.Body{}, factor)
 		check(distinctModes(impl.MaxModes), factor)
 		check(bodyOfPoles(-1, complex(0, -1), complex(narrow(negativeZero), leastSingle), complex(0.6, -0.79999995)), factor)
@@ -111,7 +107,7 @@ func TestP10DampedBodies(t *testing.T) {
 	if !ok || !sameBody(damped, bodyOf(impl.Mode{Pole: complex(narrow(negativeZero), 0), Gain: 3})) {
 		t.Errorf("DampBody by 0: %v %v", damped, ok)
 	}
-	for _, factor := range []float32{-leastSingle, oneOver(1), -1, 2, float32(inf), float32(-inf), float32(nan)} {
+	for _, factor := range wrongFactors() {
 		for _, b := range []impl.Body{{}, distinctModes(2)} {
 			if damped, ok := impl.DampBody(b, factor); ok || len(damped.Modes) != 0 {
 				t.Errorf("DampBody of %v by %v: %v %v", b, factor, damped, ok)

@@ -269,7 +269,7 @@ func TestP10RingingThatFails(t *testing.T) {
 		refuse(b, 3)
 		refuse(b, 0)
 	}
-	for _, n := range []int{-1, math.MinInt, impl.MaxSamples + 1, 1 << 32, math.MaxInt} {
+	for _, n := range wrongSteps() {
 		refuse(bodyOf(impl.Mode{Pole: 0.9, Gain: 1}), n)
 		refuse(impl.Body{}, n)
 	}
