@@ -265,12 +265,13 @@ func anyStart(r *rand.Rand) complex128 {
 	}
 }
 
-// plainPoles returns the multiples of 1/16 whose size is from 1/4 to 1.
+// plainPoles returns the multiples of 1/16 whose size is at least 1/4 and whose
+// absolute value is at most 1, so that the size may be greater.
 func plainPoles() []complex128 {
 	var list []complex128
 	for a := -16; a <= 16; a++ {
 		for b := -16; b <= 16; b++ {
-			if size := max(a, -a) + max(b, -b); size >= 4 && size <= 16 {
+			if max(a, -a)+max(b, -b) >= 4 && a*a+b*b <= 256 {
 				list = append(list, sixteenths(a, b))
 			}
 		}
@@ -278,13 +279,18 @@ func plainPoles() []complex128 {
 	return list
 }
 
-// anyPoleToFit returns a pole with a size from 1/4 to 1, often one of these.
+// anyPoleToFit returns a pole with a size of at least 1/4, which is not greater
+// than 1 by its size or by its absolute value, often just so.
 func anyPoleToFit(r *rand.Rand) complex128 {
 	for {
 		size := []float64{0.25, 1, 0.25 + 0.75*r.Float64()}[r.IntN(3)]
 		re := size * r.Float64()
-		pole := complex(re*float64(1-2*r.IntN(2)), (size-re)*float64(1-2*r.IntN(2)))
-		if !within(pole, 0, math.Nextafter(0.25, 0)) && within(pole, 0, 1) {
+		im := size - re
+		if r.IntN(3) == 0 {
+			im = math.Sqrt(1 - re*re)
+		}
+		pole := complex(re*float64(1-2*r.IntN(2)), im*float64(1-2*r.IntN(2)))
+		if !within(pole, 0, math.Nextafter(0.25, 0)) && sum(product(re, re), product(im, im)) <= 1 {
 			return pole
 		}
 	}
