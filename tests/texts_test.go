@@ -145,16 +145,16 @@ func TestP10TextsOfNoNumber(t *testing.T) {
 
 var textShape = regexp.MustCompile(`^-?(0|([1-9][0-9]*)p(0|-?[1-9][0-9]*))$`)
 
-// hasNumber tells whether a short text is that of a number of this many digits,
-// with exponents from lowest up, below 2^top.
+// hasNumber tells whether a text is that of a number of this many digits, with
+// exponents from lowest up, below 2^top.
 func hasNumber(s string, digits, lowest, top int) bool {
 	parts := textShape.FindStringSubmatch(s)
 	if parts == nil || parts[2] == "" {
 		return parts != nil
 	}
 	odd, _ := new(big.Int).SetString(parts[2], 10)
-	exponent, _ := strconv.Atoi(parts[3])
-	return odd.Bit(0) == 1 && odd.BitLen() <= digits && exponent >= lowest && odd.BitLen()+exponent <= top
+	exponent, err := strconv.Atoi(parts[3])
+	return err == nil && odd.Bit(0) == 1 && odd.BitLen() <= digits && exponent >= lowest && odd.BitLen()+exponent <= top
 }
 
 func TestP10AllShortTexts(t *testing.T) {
