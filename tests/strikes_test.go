@@ -250,10 +250,7 @@ func wantPeak(samples []float32) float32 {
 func TestP4LevelsOfAnySamples(t *testing.T) {
 	r := newRandom()
 	for range 1000 {
-		samples := anyInput(r, r.IntN(50))
-		if r.IntN(2) == 0 {
-			samples = wildSamples(r, r.IntN(10))
-		}
+		samples := wildOrTame(r, r.IntN(50))
 		energy := 0.0
 		for _, x := range samples {
 			energy = sum(energy, product(float64(x), float64(x)))
@@ -265,6 +262,14 @@ func TestP4LevelsOfAnySamples(t *testing.T) {
 			t.Fatalf("PeakOf %v: %v, want %v", samples, got, want)
 		}
 	}
+}
+
+// wildOrTame draws samples that are all wild, or all of them near 1.
+func wildOrTame(r *rand.Rand, n int) []float32 {
+	if r.IntN(2) == 0 {
+		return wildSamples(r, n)
+	}
+	return anyInput(r, n)
 }
 
 // wildSamples draws from all bit patterns and from the special numbers.
